@@ -95,7 +95,7 @@ func TestPackLongest(t *testing.T) {
 	checkPack(t, strings.Repeat("z", 131), "\x00z\xff\x01")
 	checkPack(t, strings.Repeat("z", 133), "\x00z\xff\x01\x01zz")
 	checkPack(t, strings.Repeat("z", 134), "\x00z\xff\x01\x80\x01")
-	// the byte behind a match ends at its Longest alone, not at where it began
+	// 131 bytes come again; the match ends at Longest, and the last byte is plain
 	half := distinct(131)
 	checkPack(t, half+half, "\x7f"+half[:128]+"\x02"+half[128:]+"\xff\x83\x00"+half[130:])
 }
