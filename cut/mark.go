@@ -18,17 +18,15 @@ const (
 // bytes, not bytes, are taken so that the table is small.
 type lost [1 << half]uint32
 
+// onceLost works its table out once, when it is first asked for.
 type onceLost struct {
 	once  sync.Once
 	table lost
 }
 
-// marks outlasts the calls, because the table is to be worked out only once.
-var marks = onceLost{}
-
-func (o *onceLost) get() lost {
+func (o *onceLost) get() *lost {
 	o.once.Do(func() { o.table = workOut() })
-	return o.table
+	return &o.table
 }
 
 func workOut() lost {

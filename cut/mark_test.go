@@ -2,6 +2,8 @@ package cut
 
 import (
 	"math/big"
+	"slices"
+	"strings"
 	"sync"
 	"testing"
 
@@ -57,7 +59,7 @@ func TestTableIsWorkedOutWhenAskedFor(t *testing.T) {
 	answers := make([]lost, 20)
 	var all sync.WaitGroup
 	for i := range answers {
-		all.Go(func() { answers[i] = fresh.get() })
+		all.Go(func() { answers[i] = *fresh.get() })
 	}
 	all.Wait()
 	for i, a := range answers {
@@ -73,5 +75,36 @@ func TestTableIsWorkedOutOnce(t *testing.T) {
 	fresh.table[1] = 7
 	if fresh.get()[1] != 7 {
 		t.Error("the table was worked out again")
+	}
+}
+
+func TestCutterWorksItsTableOutOnce(t *testing.T) {
+	c := By(api.Config{Min: 16, Max: 40, Bits: 3, Room: 100})
+	c.Places(noise(16, 1))
+	if c.marks.table != (lost{}) {
+		t.Error("the table is there, though no mark was asked for")
+	}
+	c.Places(noise(100, 1))
+	if c.marks.table != workOut() {
+		t.Errorf("the table is %x", c.marks.table)
+	}
+	c.marks.table[1] = 7
+	c.Places(noise(100, 2))
+	if c.marks.table[1] != 7 {
+		t.Error("the table was worked out again for another stream")
+	}
+}
+
+func TestOneCutterCutsManyStreams(t *testing.T) {
+	config := api.Config{Min: 16, Max: 40, Bits: 3, Room: 100}
+	c := By(config)
+	for seed := range uint32(20) {
+		s := noise(500, seed)
+		if got, want := c.Places(s), By(config).Places(s); !slices.Equal(got, want) {
+			t.Errorf("stream %d: %v, want %v", seed, got, want)
+		}
+		if got := strings.Join(c.Chunks(s), ""); got != s {
+			t.Errorf("stream %d: the chunks are not the stream", seed)
+		}
 	}
 }

@@ -15,7 +15,7 @@ func Cuts(data string, c api.Config) ([]int, api.Errno) {
 	if len(data) > api.MaxData {
 		return nil, api.ErrBig
 	}
-	return cut.Places(data, c), api.OK
+	return cut.By(c).Places(data), api.OK
 }
 
 // Pack packs bytes (P4).
@@ -34,33 +34,3 @@ func Unpack(s string) (string, api.Errno) {
 	}
 	return data, api.OK
 }
-
-// Store keeps streams.
-type Store struct{}
-
-// New makes a store (P6).
-func New(c api.Config) (*Store, api.Errno) { return nil, api.OK }
-
-// Open makes a store of bytes (P7).
-func Open(bytes string) (*Store, api.Errno) { return nil, api.OK }
-
-// Bytes tells what the store is written as (P8).
-func (s *Store) Bytes() string { return "" }
-
-// Config tells how the store cuts (P8).
-func (s *Store) Config() api.Config { return api.Config{} }
-
-// Backup keeps a stream (P9).
-func (s *Store) Backup(name string, data string) api.Errno { return api.OK }
-
-// Restore gives a stream back (P10).
-func (s *Store) Restore(name string) (string, api.Errno) { return "", api.OK }
-
-// List tells the streams' names (P10).
-func (s *Store) List() []string { return nil }
-
-// Chunks tells how many chunks are kept (P10).
-func (s *Store) Chunks() int { return 0 }
-
-// Stop lets the store stop when so many bytes more have been written (P11).
-func (s *Store) Stop(after int) api.Errno { return api.OK }
