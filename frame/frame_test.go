@@ -39,3 +39,39 @@ func TestFrameLength(t *testing.T) {
 		}
 	}
 }
+
+func checkFirst(t *testing.T, s, record string, size int) {
+	t.Helper()
+	if got, n := First(s); got != record || n != size {
+		t.Errorf("the first frame of %x: %x, %d, want %x, %d", s, got, n, record, size)
+	}
+}
+
+func TestFirst(t *testing.T) {
+	for _, n := range []int{0, 1, 2, 255, 256, 65535} {
+		record := strings.Repeat("r", n)
+		frame := string(Append(nil, record))
+		checkFirst(t, frame, record, n+10)
+		checkFirst(t, frame+"more", record, n+10)
+		checkFirst(t, frame+frame, record, n+10)
+		checkFirst(t, frame[1:], "", 0)
+	}
+}
+
+func TestFirstNotWhole(t *testing.T) {
+	frame := string(Append(nil, "some record"))
+	for n := range len(frame) {
+		checkFirst(t, frame[:n], "", 0)
+	}
+}
+
+func TestFirstTurned(t *testing.T) {
+	frame := string(Append(nil, "some record"))
+	for i := range len(frame) {
+		for bit := range 8 {
+			b := []byte(frame)
+			b[i] ^= 1 << bit
+			checkFirst(t, string(b)+frame, "", 0)
+		}
+	}
+}

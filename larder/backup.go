@@ -45,7 +45,7 @@ func isName(name string) bool {
 
 // keep begins by putting the new chunks on the shelf: only so is their room
 // known. Whether it ends then or takes them back is settled at its own end.
-func (s *Store) keep(name, data string) api.Errno {
+func (s *Store) keep(name, data string) (e api.Errno) {
 	had := s.shelf.Count()
 	var numbers []int
 	var frames []byte
@@ -55,8 +55,9 @@ func (s *Store) keep(name, data string) api.Errno {
 			s.shelf.TakeBack(had)
 			return
 		}
-		s.written = append(s.written, frames...)
-		s.streams[strings.Clone(name)] = numbers
+		if e = s.write(frames); e == api.OK {
+			s.streams[strings.Clone(name)] = numbers
+		}
 	}()
 	for _, chunk := range s.cutter.Chunks(data) {
 		numbers = append(numbers, s.shelf.Put(chunk))

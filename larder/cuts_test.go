@@ -1,7 +1,6 @@
 package larder_test
 
 import (
-	"math"
 	"slices"
 	"strings"
 	"sync"
@@ -114,17 +113,7 @@ func TestCutsRefused(t *testing.T) {
 	full := strings.Repeat("x", api.MaxData)
 	checkCuts(t, full, good, cutsByWords(full, good))
 	refuseCuts(t, full+"x", good, api.ErrBig)
-	for _, c := range []api.Config{
-		{},
-		{Min: 15, Max: 200, Bits: 12, Room: 60000},
-		{Min: 21, Max: 20, Bits: 12, Room: 60000},
-		{Min: 16, Max: 201, Bits: 12, Room: 60000},
-		{Min: 16, Max: 200, Bits: 0, Room: 60000},
-		{Min: 16, Max: 200, Bits: 13, Room: 60000},
-		{Min: 16, Max: 200, Bits: 12, Room: 99},
-		{Min: 16, Max: 200, Bits: 12, Room: 60001},
-		{Min: math.MinInt, Max: math.MaxInt, Bits: math.MinInt, Room: math.MaxInt},
-	} {
+	for _, c := range beyondThem {
 		refuseCuts(t, "", c, api.ErrConfig)
 		refuseCuts(t, full+"x", c, api.ErrConfig)
 	}

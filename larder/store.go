@@ -2,6 +2,7 @@ package larder
 
 import (
 	"maps"
+	"math"
 	"slices"
 	"strings"
 
@@ -19,6 +20,7 @@ type Store struct {
 	shelf   *shelf.Shelf
 	streams map[string][]int // the numbers of each stream's chunks, by its name
 	written []byte
+	left    int // bytes that may still be written until the store stops
 }
 
 // New makes a store (P6).
@@ -32,14 +34,12 @@ func New(c api.Config) (*Store, api.Errno) {
 		shelf:   shelf.New(),
 		streams: map[string][]int{},
 		written: frame.Append(nil, record.Head(c)),
+		left:    math.MaxInt,
 	}, api.OK
 }
 
-// Open makes a store of bytes (P7).
-func Open(bytes string) (*Store, api.Errno) { return nil, api.OK }
-
-// down tells whether the store keeps nothing. One that was never made (a
-// Store{}) is taken as none at all.
+// down tells whether the store keeps nothing. One that has stopped has no shelf
+// left, and one that was never made (a Store{}) is taken as none at all.
 func (s *Store) down() bool { return s == nil || s.shelf == nil }
 
 // Bytes tells what the store is written as (P8).
@@ -67,11 +67,16 @@ func (s *Store) Restore(name string) (string, api.Errno) {
 	if !there {
 		return "", api.ErrNone
 	}
+	return s.join(numbers), api.OK
+}
+
+// join makes a stream of the chunks with these numbers.
+func (s *Store) join(numbers []int) string {
 	var data []byte
 	for _, n := range numbers {
 		data = append(data, s.shelf.At(n)...)
 	}
-	return string(data), api.OK
+	return string(data)
 }
 
 // List tells the streams' names (P10).
@@ -92,12 +97,4 @@ func (s *Store) Chunks() int {
 		return 0
 	}
 	return s.shelf.Count()
-}
-
-// Stop lets the store stop when so many bytes more have been written (P11).
-func (s *Store) Stop(after int) api.Errno {
-	if s.down() {
-		return api.ErrDown
-	}
-	return api.OK
 }

@@ -156,33 +156,40 @@ func TestStoreExamples(t *testing.T) {
 	checkRestore(t, s, "a", zeros(20))
 }
 
+// atTheBounds may be, beyondThem may not.
+var atTheBounds = []api.Config{
+	{Min: 16, Max: 16, Bits: 1, Room: 100},
+	{Min: 16, Max: 200, Bits: 12, Room: 60000},
+	{Min: 200, Max: 200, Bits: 1, Room: 60000},
+	{Min: 127, Max: 128, Bits: 12, Room: 127},
+	{Min: 128, Max: 129, Bits: 5, Room: 128},
+	{Min: 16, Max: 100, Bits: 5, Room: 16383},
+	{Min: 16, Max: 100, Bits: 5, Room: 16384},
+}
+
+var beyondThem = []api.Config{
+	{},
+	{Min: 15, Max: 40, Bits: 4, Room: 1000},
+	{Min: 0, Max: 40, Bits: 4, Room: 1000},
+	{Min: 41, Max: 40, Bits: 4, Room: 1000},
+	{Min: 20, Max: 201, Bits: 4, Room: 1000},
+	{Min: 20, Max: 40, Bits: 0, Room: 1000},
+	{Min: 20, Max: 40, Bits: 13, Room: 1000},
+	{Min: 20, Max: 40, Bits: 4, Room: 99},
+	{Min: 20, Max: 40, Bits: 4, Room: 60001},
+	{Min: 20, Max: 40, Bits: 4, Room: 1 << 40},
+	{Min: math.MinInt, Max: math.MaxInt, Bits: math.MinInt, Room: math.MaxInt},
+	{Min: -1, Max: -1, Bits: -1, Room: -1},
+}
+
 func TestNewAtTheBounds(t *testing.T) {
-	for _, c := range []api.Config{
-		{Min: 16, Max: 16, Bits: 1, Room: 100},
-		{Min: 16, Max: 200, Bits: 12, Room: 60000},
-		{Min: 200, Max: 200, Bits: 1, Room: 60000},
-		{Min: 127, Max: 128, Bits: 12, Room: 127},
-		{Min: 128, Max: 129, Bits: 5, Room: 128},
-		{Min: 16, Max: 100, Bits: 5, Room: 16383},
-		{Min: 16, Max: 100, Bits: 5, Room: 16384},
-	} {
+	for _, c := range atTheBounds {
 		begin(t, c)
 	}
 }
 
 func TestNewRefused(t *testing.T) {
-	for _, c := range []api.Config{
-		{},
-		{Min: 15, Max: 40, Bits: 4, Room: 1000},
-		{Min: 41, Max: 40, Bits: 4, Room: 1000},
-		{Min: 20, Max: 201, Bits: 4, Room: 1000},
-		{Min: 20, Max: 40, Bits: 0, Room: 1000},
-		{Min: 20, Max: 40, Bits: 13, Room: 1000},
-		{Min: 20, Max: 40, Bits: 4, Room: 99},
-		{Min: 20, Max: 40, Bits: 4, Room: 60001},
-		{Min: math.MinInt, Max: math.MaxInt, Bits: math.MinInt, Room: math.MaxInt},
-		{Min: -1, Max: -1, Bits: -1, Room: -1},
-	} {
+	for _, c := range beyondThem {
 		if s, e := larder.New(c); s != nil || e != api.ErrConfig {
 			t.Errorf("P6: %+v: %v, %d", c, s, e)
 		}
@@ -273,6 +280,12 @@ func TestArgumentsAreNotKept(t *testing.T) {
 func TestAnswersShareNoBytes(t *testing.T) {
 	s, b := begin(t, example)
 	both(t, s, b, "stream", noise(19, 256, 4))
+	checkSharesNoBytes(t, s, b)
+	checkSharesNoBytes(t, open(t, s.Bytes()), b)
+}
+
+func checkSharesNoBytes(t *testing.T, s *larder.Store, b *book) {
+	t.Helper()
 	ask := func() [3]string {
 		data, _ := s.Restore("stream")
 		return [3]string{s.Bytes(), data, s.List()[0]}

@@ -1,5 +1,5 @@
-// Package record writes what the frames of a store hold: the head, chunks and
-// streams.
+// Package record writes and reads what the frames of a store hold: the head,
+// chunks and streams.
 package record
 
 import (
